@@ -1,0 +1,35 @@
+// Package fresh makes new memory of what layers are handed, keep and answer, so that no two of them share any.
+package fresh
+
+import (
+	"bytes"
+
+	"tributary/api"
+)
+
+// list makes a list of new elements; none of none.
+func list[E any](l []E, one func(E) E) []E {
+	if len(l) == 0 {
+		return nil
+	}
+	out := make([]E, len(l))
+	for i, x := range l {
+		out[i] = one(x)
+	}
+	return out
+}
+
+// Effect makes a new effect.
+func Effect(e api.Effect) api.Effect {
+	e.Bytes = bytes.Clone(e.Bytes)
+	return e
+}
+
+// Entry makes a new entry.
+func Entry(x api.Entry) api.Entry {
+	x.Effect = Effect(x.Effect)
+	return x
+}
+
+// Entries makes a new list of entries.
+func Entries(t []api.Entry) []api.Entry { return list(t, Entry) }
