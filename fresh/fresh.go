@@ -3,6 +3,7 @@ package fresh
 
 import (
 	"bytes"
+	"slices"
 
 	"tributary/api"
 )
@@ -33,3 +34,13 @@ func Entry(x api.Entry) api.Entry {
 
 // Entries makes a new list of entries.
 func Entries(t []api.Entry) []api.Entry { return list(t, Entry) }
+
+// Event makes a new event.
+func Event(e api.Event) api.Event {
+	e.Effect = Effect(e.Effect)
+	e.Past = slices.Clone(e.Past)
+	return e
+}
+
+// Events makes a new list of events.
+func Events(l []api.Event) []api.Event { return list(l, Event) }
