@@ -44,3 +44,13 @@ func Event(e api.Event) api.Event {
 
 // Events makes a new list of events.
 func Events(l []api.Event) []api.Event { return list(l, Event) }
+
+// Shown makes a new one of what is shown of a path.
+func Shown(x api.Shown) api.Shown {
+	x.Effect = Effect(x.Effect)
+	x.Past = slices.Clone(x.Past)
+	return x
+}
+
+// Showing makes a new showing.
+func Showing(l []api.Shown) []api.Shown { return list(l, Shown) }
