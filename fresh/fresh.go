@@ -54,3 +54,18 @@ func Shown(x api.Shown) api.Shown {
 
 // Showing makes a new showing.
 func Showing(l []api.Shown) []api.Shown { return list(l, Shown) }
+
+// Archive makes a new archive.
+func Archive(a api.Archive) api.Archive {
+	a.Known = slices.Clone(a.Known)
+	return a
+}
+
+// Node makes a new node.
+func Node(n api.Node) api.Node {
+	n.Store = Events(n.Store)
+	n.Shown = Showing(n.Shown)
+	n.Peers = list(n.Peers, Archive)
+	n.Reports = slices.Clone(n.Reports)
+	return n
+}
