@@ -69,3 +69,11 @@ func Node(n api.Node) api.Node {
 	n.Reports = slices.Clone(n.Reports)
 	return n
 }
+
+// Air makes a new list of frames on their way.
+func Air(l []api.Air) []api.Air {
+	return list(l, func(x api.Air) api.Air {
+		x.Raw = bytes.Clone(x.Raw)
+		return x
+	})
+}
