@@ -77,3 +77,15 @@ func Air(l []api.Air) []api.Air {
 		return x
 	})
 }
+
+// Replica makes a new node of a model.
+func Replica(r api.Replica) api.Replica {
+	r.Known = slices.Clone(r.Known)
+	r.Shown = Showing(r.Shown)
+	return r
+}
+
+// Model makes a new model.
+func Model(m api.Model) api.Model {
+	return api.Model{Events: Events(m.Events), Nodes: list(m.Nodes, Replica), Reports: slices.Clone(m.Reports)}
+}
