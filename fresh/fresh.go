@@ -89,3 +89,6 @@ func Replica(r api.Replica) api.Replica {
 func Model(m api.Model) api.Model {
 	return api.Model{Events: Events(m.Events), Nodes: list(m.Nodes, Replica), Reports: slices.Clone(m.Reports)}
 }
+
+// Nodes makes a new list of nodes.
+func Nodes(l []api.Node) []api.Node { return list(l, Node) }
