@@ -149,12 +149,13 @@ func TestBytes(t *testing.T) {
 		t.Error(raw, err)
 	}
 	long := append([]byte{1, 3, 2, 156, 65}, make([]byte, 40001)...)
+	longest := append([]byte{1, 3, 2, 156, 64}, make([]byte, 40000)...)
 	for i, x := range []struct {
 		b   []byte
 		err api.Errno
 		at  int
 	}{
-		{nil, api.ErrBytes, 0}, {[]byte{0, 1, 2, 0, 0}, api.ErrRange, 0}, {[]byte{1, 201, 1, 2, 0, 0}, api.ErrRange, 0}, {[]byte{1, 3}, api.ErrBytes, 2}, {[]byte{1, 3, 1, 2, 0}, api.ErrBytes, 5}, {[]byte{1, 3, 1, 2, 0, 0, 0}, api.ErrBytes, 6}, {long, api.ErrLong, 2},
+		{nil, api.ErrBytes, 0}, {[]byte{0, 1, 2, 0, 0}, api.ErrRange, 0}, {[]byte{1, 201, 1, 2, 0, 0}, api.ErrRange, 0}, {[]byte{1, 3}, api.ErrBytes, 2}, {[]byte{1, 3, 1, 2, 0}, api.ErrBytes, 5}, {[]byte{1, 3, 1, 2, 0, 0, 0}, api.ErrBytes, 6}, {long, api.ErrLong, 2}, {longest, api.ErrArg, 0},
 		{[]byte{1, 3, 0}, api.ErrArg, 0}, {[]byte{1, 3, 1, 3, 0, 0, 0}, api.ErrArg, 0}, {[]byte{1, 3, 1, 11, 0, 1, 1, 0, 0, 0, 3, 0, 0, 0, 2}, api.ErrArg, 0},
 	} {
 		if got, fault := edge.Read(x.b); fault != (api.Fault{Err: x.err, At: x.at}) || !alike(got, api.Archive{}) {

@@ -137,6 +137,9 @@ func TestRead(t *testing.T) {
 		{with([]byte{1, 1}), api.ErrBytes, 6},
 		{with([]byte{1, 1, 102}, text(1101)), api.ErrLong, 7},
 		{with([]byte{1, 1, 102, 0}, text(40001)), api.ErrLong, 8},
+		{with([]byte{1, 1, 102, 0}, text(40000)), api.ErrArg, 0},
+		{with([]byte{1, 1, 102}, text(1100), []byte{0}), api.ErrArg, 0},
+		{with([]byte{1, 77}, bytes.Repeat([]byte{'a'}, 77), []byte{0, 0}), api.ErrArg, 0},
 		{with([]byte{1, 1, 102, 1, 4, 1, 1, 0, 0, 1, 2, 0, 0, 0}), api.ErrBytes, 17},
 		{with([]byte{1, 1, 70, 1, 4, 1, 1, 0, 0, 1, 2, 0, 0}), api.ErrArg, 0},
 		{with([]byte{0, 1, 4, 1, 1, 0, 0, 1, 2, 0, 0}), api.ErrArg, 0},
@@ -192,7 +195,8 @@ func TestClosed(t *testing.T) {
 		{nil, true}, {[]api.Event{a}, true}, {[]api.Event{a, b}, true}, {[]api.Event{b, a}, true}, {[]api.Event{a, a}, false}, {[]api.Event{a, make1(of(1, 1), "g", gone)}, false},
 		{[]api.Event{a, b, c}, false}, {[]api.Event{c, b}, false}, {[]api.Event{a, c}, true}, {[]api.Event{whole, b, a}, true}, {[]api.Event{whole, b}, true}, {[]api.Event{later, whole, b, a}, true}, {[]api.Event{later, c, b, a}, false},
 	} {
-		if event.Closed(x.l) != x.want {
+		was := slices.Clone(x.l)
+		if event.Closed(x.l) != x.want || !slices.EqualFunc(was, x.l, event.Same) {
 			t.Error(i)
 		}
 	}

@@ -11,6 +11,7 @@ import (
 	"tributary/effect"
 	"tributary/event"
 	"tributary/fleet"
+	"tributary/frame"
 	"tributary/peer"
 	"tributary/store"
 	"tributary/table"
@@ -229,6 +230,19 @@ func TestDown(t *testing.T) {
 	has(t, f, 1, 2)
 	has(t, f, 5)
 	answers(t, f, step(api.StepRestart, 4, 0), api.ErrDead)
+}
+
+// P28.2: neighbours are linked by rising numbers, be they above or below: so their links have rising epochs.
+func TestTidyOrder(t *testing.T) {
+	f := begin(t)
+	do(t, f, step(api.StepEnrol, api.KindGateway, 1), step(api.StepCrash, 2, 0), step(api.StepEnrol, api.KindLaptop, 2), step(api.StepEnrol, api.KindGateway, 1), step(api.StepMove, 2, 4), step(api.StepRestart, 2, 0))
+	has(t, f, 2, 3, 4)
+	for i, n := range []int{3, 4} {
+		do(t, f, step(api.StepOut, 2, n))
+		if p, fault := frame.GetPacket(f.Air()[i].Raw); fault.Err != api.OK || p.From != f.Node(2).Epoch-1+i {
+			t.Error(n, p, fault)
+		}
+	}
 }
 
 // P28.2: what users do, while their nodes are up, or down.

@@ -216,7 +216,7 @@ func TestBytes(t *testing.T) {
 		err api.Errno
 		at  int
 	}{
-		{nil, api.ErrBytes, 0}, {[]byte{9}, api.ErrArg, 0}, {cat([]byte{1, 78}, bytes.Repeat([]byte{'a'}, 78)), api.ErrLong, 0}, {d, api.ErrBytes, 3}, {cat(d, text(1101)), api.ErrLong, 3}, {cat(d, e, text(40001)), api.ErrLong, 9}, {cat(d, e, none), api.ErrBytes, 13}, {cat(d, e, none, []byte{6, 1, 0, 0, 0, 0, 1}), api.ErrRange, 13}, {cat(d, e, none, []byte{0, 0}), api.ErrBytes, 14},
+		{nil, api.ErrBytes, 0}, {[]byte{9}, api.ErrArg, 0}, {cat([]byte{1, 78}, bytes.Repeat([]byte{'a'}, 78)), api.ErrLong, 0}, {d, api.ErrBytes, 3}, {cat(d, text(1101)), api.ErrLong, 3}, {cat(d, e, text(40001)), api.ErrLong, 9}, {cat(d, e, none), api.ErrBytes, 13}, {cat(d, e, none, []byte{6, 1, 0, 0, 0, 0, 1}), api.ErrRange, 13}, {cat(d, e, none, []byte{0, 0}), api.ErrBytes, 14}, {cat(d, text(1100), none, []byte{0}), api.ErrArg, 0}, {cat(d, e, text(40000), []byte{0}), api.ErrArg, 0},
 		{cat([]byte{1, 1, 68}, e, none, []byte{0}), api.ErrArg, 0}, {cat(d, none, none, []byte{0}), api.ErrArg, 0}, {cat(d, e, e, []byte{0}), api.ErrArg, 0}, {cat([]byte{0}, e, none, []byte{0}), api.ErrArg, 0}, {cat(d, []byte{0}, none, []byte{0}), api.ErrArg, 0}, {cat(d, e, []byte{0, 0}), api.ErrArg, 0},
 	} {
 		if got, fault := install.Read(x.b); fault != (api.Fault{Err: x.err, At: x.at}) || !alike(got, api.Intent{}) {

@@ -7,6 +7,7 @@ import (
 	"tributary/dot"
 	"tributary/fresh"
 	"tributary/ledger"
+	"tributary/order"
 	"tributary/past"
 	"tributary/resolve"
 	"tributary/shown"
@@ -76,12 +77,7 @@ func (c *copied) keep(e api.Event) api.Errno {
 	if err != api.OK {
 		return err
 	}
-	i, _ := slices.BinarySearchFunc(c.model.Events, e.Dot, func(e api.Event, d api.Dot) int {
-		if dot.Less(e.Dot, d) {
-			return -1
-		}
-		return 1
-	})
+	i, _ := slices.BinarySearchFunc(c.model.Events, e.Dot, func(e api.Event, d api.Dot) int { return order.Of(e.Dot, d, dot.Less) })
 	n.Known, c.model.Events = with, slices.Insert(c.model.Events, i, e)
 	return api.OK
 }

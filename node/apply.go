@@ -5,7 +5,6 @@ import (
 
 	"tributary/api"
 	"tributary/edge"
-	"tributary/event"
 	"tributary/fresh"
 	"tributary/ledger"
 	"tributary/past"
@@ -42,7 +41,7 @@ func (w *work) do(r api.Rec) api.Errno {
 // own keeps a change that the node made.
 func (w *work) own(r api.Rec) api.Errno {
 	n, e := w.node, r.Event
-	if event.Check(e) != api.OK || e.Dot.Node != n.Number || e.Dot.Seq != n.Seq+1 {
+	if e.Dot.Node != n.Number || e.Dot.Seq != n.Seq+1 {
 		return api.ErrArg
 	}
 	var err api.Errno
@@ -65,7 +64,7 @@ func (w *work) own(r api.Rec) api.Errno {
 
 // event keeps a change that another node made.
 func (w *work) event(r api.Rec) api.Errno {
-	if event.Check(r.Event) != api.OK || r.Event.Dot.Node == w.node.Number {
+	if r.Event.Dot.Node == w.node.Number {
 		return api.ErrArg
 	}
 	s, err := store.Put(w.node.Store, r.Event)
@@ -92,11 +91,8 @@ func (w *work) peer(r api.Rec) api.Errno {
 	if r.N == w.node.Number {
 		return api.ErrArg
 	}
-	a, err := edge.New(r.N)
+	a, err := edge.Reset(api.Archive{Node: r.N}, r.N, r.Known)
 	if err != api.OK {
-		return err
-	}
-	if a, err = edge.Reset(a, r.N, r.Known); err != api.OK {
 		return err
 	}
 	i, there := find(w.node, r.N)

@@ -201,6 +201,7 @@ func TestRefused(t *testing.T) {
 	}{
 		{mine, own(a), api.ErrArg}, {mine, own(make1(of(3, 3), "g", dir)), api.ErrArg}, {mine, own(make1(of(4, 2), "g", dir)), api.ErrArg}, {mine, own(make1(of(3, 2), "G", dir)), api.ErrArg}, {mine, own(make1(of(3, 2), "x/y", dir)), api.ErrKind}, {mine, own(make1(of(3, 2), "f/y", dir)), api.ErrKind},
 		{mine, own(make1(of(3, 2), "g", dir, odd(7, 4000)...)), api.ErrFull}, {last, own(make1(of(3, api.MaxSeq+1), "g", dir)), api.ErrArg}, {last, own(make1(of(3, 1), "g", dir)), api.ErrArg},
+		{root, own(make1(of(1, 1), "G", dir)), api.ErrArg}, {gate, own(make1(of(2, 1), "g", api.Effect{})), api.ErrArg}, {root, own(make1(of(1, 1), "g", dir, span(1, 1, 1))), api.ErrArg},
 		{mine, other(a), api.ErrArg}, {mine, other(make1(of(3, 9), "g", dir)), api.ErrArg}, {mine, other(make1(of(4, 1), "G", dir)), api.ErrArg}, {with(t, mine, other(make1(of(4, 1), "g", dir))), other(make1(of(4, 1), "h", dir)), api.ErrExists},
 		{root, showing("g", dir), api.ErrState}, {gate, showing("?", dir), api.ErrState}, {mine, showing("x/y", dir), api.ErrKind}, {mine, showing("X", dir), api.ErrArg}, {mine, showing("x", api.Effect{}), api.ErrArg},
 		{mine, peer(0), api.ErrArg}, {mine, peer(201), api.ErrArg}, {mine, peer(3), api.ErrArg}, {mine, peer(5, span(1, 2, 1)), api.ErrArg}, {mine, peer(math.MaxInt), api.ErrArg},
@@ -223,6 +224,7 @@ func TestRefused(t *testing.T) {
 var recs = []api.Rec{
 	own(a), other(make1(of(4, 9), "f/g", gone, span(1, 1, 3), span(4, 2, 2))), showing("f/g", file(1, 2), span(1, 1, 1)), showing("x", gone), peer(5), peer(200, span(1, 1, 1), span(2, 5, api.MaxSeq)), learn(5, of(1, 1)), learn(200, of(200, api.MaxSeq)), drop(1), drop(200), epoch(1), epoch(1 << 40), report(0), report(10000),
 	other(make1(of(200, api.MaxSeq), "f", file(make([]byte, 1000)...), odd(7, 4000)...)), showing("f", dir, odd(7, 4000)...), peer(5, odd(7, 4000)...),
+	peer(1), learn(1, of(1, 1)), showing("abcdefghijkl/abcdefghijkl/abcdefghijkl/abcdefghijkl/abcdefghijkl/abcdefghijkl", dir),
 }
 
 // P25.3: the bytes.
@@ -378,12 +380,18 @@ func TestWhatFollows(t *testing.T) {
 // What is told is new memory.
 func TestMemory(t *testing.T) {
 	e := make1(of(3, 1), "f", file(7), span(9, 1, 1))
-	n := with(t, born(t, 3, api.KindLaptop), own(e), peer(5, span(1, 1, 1)))
+	built := func() api.Node {
+		return with(t, born(t, 3, api.KindLaptop), own(make1(of(3, 1), "f", file(7), span(9, 1, 1))), peer(5, span(1, 1, 1)))
+	}
+	n, was := with(t, born(t, 3, api.KindLaptop), own(e), peer(5, span(1, 1, 1))), built()
 	copied := func() api.Node {
 		out, _ := node.Replay(n, nil)
 		return out
 	}
-	was := copied()
+	with(t, n, learn(5, of(1, 2)), peer(5), drop(5), showing("f", file(8)))
+	if !same(n, was) {
+		t.Error(n)
+	}
 	spoil := func(x api.Node) {
 		x.Store[0].Effect.Bytes[0], x.Store[0].Past[0].To = 1, 5
 		x.Shown[0].Effect.Bytes[0], x.Shown[0].Past[0].To = 2, 6

@@ -36,7 +36,7 @@ func odd(node, from, n int) []api.Span {
 var noPasts = [][]api.Span{
 	spans(1, 1, 2, 1, 3, 4), spans(2, 1, 1, 1, 1, 1), spans(1, 2, 1), spans(0, 1, 1), spans(201, 1, 1), spans(1, 0, 1), spans(1, -1, 1), spans(1, 1, api.MaxSeq+1),
 	spans(1, 1, 5, 1, 3, 9), spans(1, 1, 5, 1, 7, 6), spans(1, 5, 6, 1, 1, 2), spans(1, 1, 1, 1, 1, 1), spans(1, 1, math.MaxInt), spans(math.MinInt, 1, 1), spans(1, math.MinInt, math.MaxInt),
-	odd(1, 1, 4001),
+	odd(1, 1, 4001), spans(2, 1, 1, 1, 5, 5),
 }
 
 var pasts = [][]api.Span{
@@ -168,6 +168,12 @@ func TestChanged(t *testing.T) {
 	if l, err := past.Minus(spans(1, 1, 9), spans(1, 3, 4)); err != api.OK || !slices.Equal(l, spans(1, 1, 2, 1, 5, 9)) {
 		t.Error(l, err)
 	}
+	if l, err := past.Join(spans(200, 1, 2), spans(1, 1, 1, 200, 4, 4)); err != api.OK || !slices.Equal(l, spans(1, 1, 1, 200, 1, 2, 200, 4, 4)) {
+		t.Error(l, err)
+	}
+	if l, err := past.Minus(spans(1, 1, 1, 200, 1, 5), spans(200, 2, 3)); err != api.OK || !slices.Equal(l, spans(1, 1, 1, 200, 1, 1, 200, 4, 5)) || past.Within(spans(200, 1, 1), nil) {
+		t.Error(l, err)
+	}
 	if l, err := past.Join(odd(1, 1, 4000), odd(2, 1, 1)); err != api.ErrFull || len(l) > 0 {
 		t.Error(len(l), err)
 	}
@@ -190,6 +196,13 @@ func TestBytes(t *testing.T) {
 	b, err := past.Bytes(spans(1, 1, 258, 200, 7, api.MaxSeq))
 	if err != api.OK || !bytes.Equal(b, []byte{0, 2, 1, 0, 0, 0, 1, 0, 0, 1, 2, 200, 0, 0, 0, 7, 127, 255, 255, 255}) {
 		t.Error(b, err)
+	}
+	big := spans(3, 0x01020304, 0x05060708)
+	if b, err := past.Bytes(big); err != api.OK || !bytes.Equal(b, []byte{0, 1, 3, 1, 2, 3, 4, 5, 6, 7, 8}) {
+		t.Error(b, err)
+	}
+	if l, fault := past.Read([]byte{0, 1, 3, 1, 2, 3, 4, 5, 6, 7, 8}); fault != (api.Fault{}) || !slices.Equal(l, big) {
+		t.Error(l, fault)
 	}
 	if b, err := past.Bytes(nil); err != api.OK || !bytes.Equal(b, []byte{0, 0}) {
 		t.Error(b, err)

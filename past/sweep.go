@@ -1,9 +1,6 @@
 package past
 
-import (
-	"tributary/api"
-	"tributary/dot"
-)
+import "tributary/api"
 
 // cursor is a place in a past: what is left of the span there, and the spans behind it.
 type cursor struct {
@@ -130,8 +127,5 @@ func Within(a, b []api.Span) bool {
 
 // Add tells a past with another dot.
 func Add(l []api.Span, d api.Dot) ([]api.Span, api.Errno) {
-	if dot.Check(d) != api.OK {
-		return nil, api.ErrArg
-	}
 	return Join(l, []api.Span{alone(d)})
 }

@@ -144,6 +144,12 @@ func TestOpenRefused(t *testing.T) {
 			t.Error(i, p, err)
 		}
 	}
+	for _, x := range [][3]int{{0, api.KindRoot, 1000}, {201, api.KindLaptop, 1000}, {1, 4, 1000}, {1, api.KindRoot, 99}} {
+		d := newDisk(t, 100)
+		if p, err := peer.Open(d, vfs.New(), x[0], x[1], x[2]); err != api.ErrArg || p != nil || d.Steps() != 0 {
+			t.Error(x, err)
+		}
+	}
 	for fuse := range 5 {
 		d := newDisk(t, 100)
 		d.Fuse(fuse)
@@ -233,6 +239,44 @@ func TestLink(t *testing.T) {
 	}
 }
 
+// P26.2: wherever a Link, or an Unlink, stops.
+func TestLinkStops(t *testing.T) {
+	for fuse := range 5 {
+		d := newDisk(t, 9000)
+		p := open(t, d, nil, 1, api.KindRoot)
+		d.Fuse(fuse)
+		err := p.Link(2)
+		if (err == api.OK) != (fuse == 4) || fuse < 4 && err != api.ErrBroken {
+			t.Error(fuse, err)
+		}
+		if n := p.Node(); len(n.Peers) > 0 != (fuse >= 2) || n.Epoch > 1 != (fuse == 4) {
+			t.Error(fuse, n)
+		}
+	}
+	// a Link that had room for the edge, but not for the epoch, is none
+	for room := 36; room < 100; room++ {
+		d := newDisk(t, room)
+		p := open(t, d, nil, 1, api.KindRoot)
+		err := p.Link(2)
+		n := p.Node()
+		if err != api.OK && (err != api.ErrFull || p.Unlink(2) != api.ErrMissing || n.Epoch != 1) || err == api.OK && (len(n.Peers) != 1 || n.Epoch != 2) {
+			t.Error(room, err, n)
+		}
+		if _, err := p.Out(2); (err == api.OK) != (n.Epoch == 2) {
+			t.Error(room, err)
+		}
+	}
+	for fuse := range 3 {
+		d := newDisk(t, 9000)
+		p := open(t, d, nil, 1, api.KindRoot)
+		want(t, []api.Errno{p.Link(2), d.Fuse(fuse)}, api.OK, api.OK)
+		err := p.Unlink(2)
+		if (err == api.OK) != (fuse == 2) || fuse < 2 && err != api.ErrBroken || len(p.Node().Peers) > 0 != (fuse < 2) {
+			t.Error(fuse, err)
+		}
+	}
+}
+
 // P26.3: the first change that can be made and is not too big is recorded.
 func TestScan(t *testing.T) {
 	f := vfs.New()
@@ -280,7 +324,9 @@ func TestInstall(t *testing.T) {
 
 // P26.4: with a Commit's error the intent is cleared, and nothing is shown.
 func TestInstallRefused(t *testing.T) {
-	a, b, f := pair(t)
+	d, f := newDisk(t, 100000), vfs.New()
+	a, b := open(t, newDisk(t, 100000), nil, 1, api.KindRoot), open(t, d, f, 2, api.KindLaptop)
+	want(t, []api.Errno{a.Link(2), b.Link(1)}, api.OK, api.OK)
 	for i := range 200 {
 		f.Write(string([]byte{'a' + byte(i/26), 'a' + byte(i%26)}), 0, nil)
 	}
@@ -292,6 +338,58 @@ func TestInstallRefused(t *testing.T) {
 	want(t, []api.Errno{b.Absorb(), b.Install()}, api.OK, api.ErrFull)
 	if n := b.Node(); len(n.Shown) != 200 {
 		t.Error(len(n.Shown))
+	}
+	if _, err := d.Read("i"); err != api.ErrMissing || len(d.Loose()) > 0 {
+		t.Error(err)
+	}
+}
+
+// P26.4, P26.6: a disk that has no room any more.
+func TestFullDisk(t *testing.T) {
+	refused := map[string]int{}
+	for room := 160; room < 500; room++ {
+		d, f := newDisk(t, room), vfs.New()
+		a, b := open(t, newDisk(t, 9000), nil, 1, api.KindRoot), open(t, d, f, 2, api.KindLaptop)
+		want(t, []api.Errno{a.Link(2), b.Link(1), a.Resolve("some/where", gone), a.Resolve("f", file(make([]byte, 20)...))}, api.OK, api.OK, api.OK, api.OK)
+		for range 2 {
+			hand(t, a, b, 5)
+			was := b.Node()
+			if err := b.Absorb(); err == api.ErrFull {
+				refused["absorb"]++
+				if n, m := b.Used(); m != 1 || n == 0 || b.Absorb() != api.ErrFull {
+					t.Fatal(room, n, m)
+				}
+				now := b.Node()
+				stored, learned := len(now.Store) > len(was.Store), len(known(b, 1)) > 0 && !slices.Equal(known(b, 1), was.Peers[0].Known)
+				hand(t, a, b, 2)
+				if learned || stored != (len(now.Store) > len(was.Store)) || !slices.Equal(known(a, 2), was.Peers[0].Known) {
+					t.Fatal(room, now)
+				}
+			} else if err != api.OK {
+				t.Fatal(room, err)
+			}
+		}
+		s := b.Node()
+		if len(s.Store) < 2 {
+			continue
+		}
+		had := len(f.Tree())
+		for err := api.OK; err == api.OK; {
+			was := b.Node()
+			if err = b.Install(); err == api.ErrFull {
+				_, left := d.Read("i")
+				refused[left.Error()]++
+				if len(b.Node().Shown) != len(was.Shown) || b.Tick() != api.OK || left != api.OK && len(f.Tree()) != had {
+					t.Fatal(room, left, b.Node().Shown)
+				}
+			} else if err != api.OK && err != api.ErrMissing {
+				t.Fatal(room, err)
+			}
+			had = len(f.Tree())
+		}
+	}
+	if refused["absorb"] < 20 || refused[api.OK.Error()] < 10 || refused[api.ErrMissing.Error()] < 10 {
+		t.Error("too few:", refused)
 	}
 }
 
@@ -594,6 +692,12 @@ func TestItems(t *testing.T) {
 	r.hears()
 	want(t, []api.Errno{r.say(gotOf(2)), r.say(fullOf(2))}, api.OK, api.OK)
 	r.hears()
+	for range 5 { // what is said of an item that does not go out is nothing
+		p.Tick()
+	}
+	if len(known(p, 9)) > 0 || len(r.heard()) > 0 {
+		t.Error(known(p, 9))
+	}
 	want(t, []api.Errno{r.say(fullOf(1)), p.Tick(), p.Tick(), p.Tick()}, api.OK, api.OK, api.OK, api.OK)
 	r.hears()
 	want(t, []api.Errno{r.say(gotOf(1)), p.Tick()}, api.OK, api.OK)
@@ -682,6 +786,24 @@ func TestTurn(t *testing.T) {
 		t.Error(known(p, 9))
 	}
 	want(t, []api.Errno{r.say(gotOf(2))}, api.OK)
+	if !slices.Equal(known(p, 9), []api.Span{span(1, 1, 1)}) {
+		t.Error(known(p, 9))
+	}
+}
+
+// P26.7: an item that was on its way when the other end turned goes out anew, as another item.
+func TestTurnWhileOut(t *testing.T) {
+	p := open(t, newDisk(t, 100000), nil, 1, api.KindRoot)
+	want(t, []api.Errno{p.Resolve("a", file(make([]byte, 300)...))}, api.OK)
+	r := meet0(t, p, 9)
+	for item := 1; item < 4; item++ {
+		pieces, _ := chunk.Cut(item, bytesOf(t, p.Node().Store[0]))
+		r.epoch, r.sent, r.came = 50+item, 0, 0
+		r.raw(api.Packet{From: r.epoch, To: p.Node().Epoch})
+		r.hears(pieces...)
+		r.hears()
+	}
+	want(t, []api.Errno{r.say(gotOf(2)), r.say(gotOf(3))}, api.OK, api.OK)
 	if !slices.Equal(known(p, 9), []api.Span{span(1, 1, 1)}) {
 		t.Error(known(p, 9))
 	}
@@ -841,6 +963,22 @@ func TestQuota(t *testing.T) {
 	}
 	if answers[api.MessageFull] < 50 || answers[api.MessageGot] < 10 {
 		t.Error(answers)
+	}
+	wide, err := peer.Open(newDisk(t, 1000000), nil, 3, api.KindGateway, 60000)
+	if err != api.OK {
+		t.Fatal(err)
+	}
+	r = meet(t, wide, 9)
+	for i := range 101 {
+		r.item(i+1, bytesOf(t, make1(of(5, i+1), "f", gone)))
+		if i < 100 {
+			r.hears()
+		} else {
+			r.hears(fullOf(101))
+		}
+	}
+	if n, m := wide.Used(); n != 1700 || m != 100 {
+		t.Error(n, m)
 	}
 	many := open(t, newDisk(t, 1000000), nil, 3, api.KindGateway)
 	r = meet(t, many, 9)

@@ -198,6 +198,26 @@ func TestNothing(t *testing.T) {
 	}
 }
 
+// P18.4: packets at the edges of what says something.
+func TestEdges(t *testing.T) {
+	s := begin(t, 5)
+	s.Receive(packet(0, 5, 1, 0, "x"))
+	s.Receive(packet(-1, 5, 1, 0, "x"))
+	take(t, s)
+	is(t, s, 0, 0, 0)
+	s.Receive(packet(1, 5, 1, 0, strings.Repeat("x", 400)))
+	take(t, s, strings.Repeat("x", 400))
+	is(t, s, 1, 0, 1)
+	s.Out()
+	s.Receive(packet(1, 5, top, 0, "x"))
+	out(t, s, packet(5, 1, 0, 1, ""))
+	s.Receive(packet(top, 5, 1, math.MaxInt, "y"))
+	is(t, s, top, 0, 2)
+	take(t, s, "y")
+	s.Receive(packet(top, math.MaxInt, 2, 0, "z"))
+	take(t, s)
+}
+
 // P18.4: what an acknowledgment lets go.
 func TestAck(t *testing.T) {
 	s := met(t)

@@ -91,7 +91,7 @@ func TestPutJoin(t *testing.T) {
 		err        api.Errno
 	}{
 		{nil, nil, nil, api.OK}, {list(a), nil, list(a), api.OK}, {nil, list(a), list(a), api.OK}, {list(a), list(b), list(b), api.OK}, {list(b), list(a), list(b), api.OK}, {list(a, c), list(b), list(b, c), api.OK}, {list(b), list(a, c), list(b, c), api.OK},
-		{list(a), list(g), nil, api.ErrArg}, {list(a), list(a2), list(a), api.OK}, {list(a2), list(a), list(a2), api.OK}, {list(c), list(both), list(both), api.OK},
+		{list(a), list(g), nil, api.ErrArg}, {list(a), list(g, make1(of(5, 1), "g", dir)), nil, api.ErrArg}, {list(a), list(a2), list(a), api.OK}, {list(a2), list(a), list(a2), api.OK}, {list(c), list(both), list(both), api.OK},
 	} {
 		l, err := shelf.Join(x.a, x.b)
 		if err != x.err || !same(l, x.want) {

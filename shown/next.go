@@ -10,6 +10,7 @@ import (
 	"tributary/effect"
 	"tributary/event"
 	"tributary/fresh"
+	"tributary/order"
 	"tributary/past"
 	"tributary/path"
 	"tributary/shelf"
@@ -85,15 +86,7 @@ func shelves(events []api.Event) iter.Seq2[string, []api.Event] {
 	}
 }
 
-func byDot(a, b api.Event) int {
-	switch {
-	case dot.Less(a.Dot, b.Dot):
-		return -1
-	case dot.Less(b.Dot, a.Dot):
-		return 1
-	}
-	return 0
-}
+func byDot(a, b api.Event) int { return order.Of(a.Dot, b.Dot, dot.Less) }
 
 // Next tells what of the first path that is ready may be shown next.
 func Next(l []api.Shown, events []api.Event) (api.Shown, bool) {

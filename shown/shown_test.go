@@ -203,6 +203,9 @@ func TestMake(t *testing.T) {
 		{shows(show("d", dir, odd(7, 4000)...)), of(4, 1), "d", dir, nil, api.ErrFull},
 		{shows(show("d", dir, odd(7, 4000)...), show("d/e", gone, span(8, 1, 1))), of(4, 1), "d", dir, nil, api.ErrFull},
 		{shows(show("d", dir, odd(7, 4000)...)), of(7, 8000), "d", dir, odd(7, 4000), api.OK},
+		{shows(show("d", dir, odd(7, 4000)...), show("d/e", gone, span(8, 1, 1))), of(0, 1), "d", dir, nil, api.ErrArg},
+		{shows(show("d", dir, odd(7, 4000)...), show("d/e", gone, span(8, 1, 1))), of(4, 1), "d", api.Effect{}, nil, api.ErrArg},
+		{shows(show("d", dir, odd(7, 4000)...), show("d/e", gone, span(8, 1, 1))), of(4, 1), "D", dir, nil, api.ErrArg},
 	} {
 		ev, got, err := shown.Make(x.l, x.d, x.at, x.e)
 		if err != x.err {
@@ -265,12 +268,15 @@ func TestNext(t *testing.T) {
 		// a clash elsewhere is none of this path's
 		{nil, list(make1(of(7, 1), "x", dir), make1(of(8, 1), "x", file()), make1(of(9, 1), "y", dir)), show("y", dir, span(9, 1, 1)), true},
 		{ld, list(make1(of(7, 1), "d/x", file()), make1(of(8, 1), "d/x/y", file()), make1(of(9, 1), "d/y", dir)), show("d/y", dir, span(9, 1, 1)), true},
+		// a Dir may have something under it
+		{lf, list(make1(of(5, 1), "d", api.Effect{Kind: api.KindDir, Mode: 7}, span(1, 1, 1))), show("d", api.Effect{Kind: api.KindDir, Mode: 7}, span(1, 1, 1), span(5, 1, 1)), true},
 		// events that may not be
 		{nil, list(a, api.Event{}), api.Shown{}, false},
 		{nil, list(a, make1(of(7, 1), "X", dir)), api.Shown{}, false},
 		// what would be too long
 		{shows(show("d", dir, odd(7, 4000)...)), list(a, make1(of(9, 1), "e", dir)), api.Shown{}, false},
 		{nil, list(make1(of(1, 1), "d", dir, odd(7, 4000)...), make1(of(9, 1), "e", dir)), api.Shown{}, false},
+		{ld, list(make1(of(1, 1), "d", dir, odd(7, 4000)...), make1(of(9, 1), "e", dir)), api.Shown{}, false},
 	} {
 		got, ok := shown.Next(x.l, x.events)
 		if ok != x.ok || !alike(got, x.want) {

@@ -196,6 +196,7 @@ func TestMove(t *testing.T) {
 		{sample(), "a", "c/y", "", api.ErrKind},
 		{sample(), "A", "b", "", api.ErrArg},
 		{sample(), "a", "B", "", api.ErrArg},
+		{sample(), "x", "B", "", api.ErrArg},
 		{sample()[1:], "c", "d", "", api.ErrArg},
 	} {
 		was := slices.Clone(x.t)
@@ -236,6 +237,21 @@ func TestWalkDiff(t *testing.T) {
 	if l, err := table.Walk(a, nil); err != api.OK || len(l) != 3 {
 		t.Error(l, err)
 	}
+	if l, err := table.Walk(nil, a); err != api.OK || len(l) != 3 || l[1].Path != "a/b" || !effect.Same(l[1].B, file(7)) || !effect.Same(l[1].A, none) {
+		t.Error(l, err)
+	}
+	x, y := []api.Entry{entry("a", dir), entry("d", dir), entry("e", dir)}, []api.Entry{entry("b", dir), entry("c", dir), entry("e", dir), entry("f", dir)}
+	for range 2 {
+		var s string
+		l, err := table.Walk(x, y)
+		for _, p := range l {
+			s += p.Path
+		}
+		if err != api.OK || s != "abcdef" {
+			t.Error(s, err)
+		}
+		x, y = y, x
+	}
 	if l, err := table.Diff(a, a); err != api.OK || len(l) > 0 {
 		t.Error(l, err)
 	}
@@ -255,7 +271,13 @@ func TestWalkDiff(t *testing.T) {
 // What is told is new memory.
 func TestNew(t *testing.T) {
 	in := append(sample(), entry("spare", dir))[:3]
-	put, _ := table.Put(in, "c", file(8, 8))
+	e := file(8, 8)
+	put, _ := table.Put(in, "c", e)
+	more, _ := table.Put(in, "b", e)
+	put[2].Effect.Bytes[0], more[2].Effect.Bytes[1] = 1, 1
+	if e.Bytes[0] != 8 || e.Bytes[1] != 8 {
+		t.Error(e)
+	}
 	moved, _ := table.Move(in, "c", "d")
 	rest, _ := table.Remove(in, "a/b")
 	walk, _ := table.Walk(in, in)
@@ -263,7 +285,8 @@ func TestNew(t *testing.T) {
 	got, _ := table.Get(in, "c")
 	put[1].Effect.Bytes[0], moved[2].Effect.Bytes[0], rest[1].Effect.Bytes[0], under[0].Effect.Bytes[0], got.Bytes[0] = 1, 1, 1, 1, 1
 	walk[1].A.Bytes[0] = 2
-	if walk[1].B.Bytes[0] != 7 || !same(in, sample()) || in[:4][3].Path != "spare" {
+	walk[2].B.Bytes[0] = 2
+	if walk[1].B.Bytes[0] != 7 || walk[2].A.Bytes[0] != 8 || !same(in, sample()) || in[:4][3].Path != "spare" {
 		t.Error(in)
 	}
 	for _, l := range [][]api.Entry{put, moved, rest, under} {

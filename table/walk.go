@@ -6,19 +6,12 @@ import (
 	"tributary/api"
 	"tributary/effect"
 	"tributary/fresh"
+	"tributary/order"
 	"tributary/path"
 )
 
 // byPath tells how an entry lies to a path, in the order of paths.
-func byPath(x api.Entry, at string) int {
-	switch {
-	case x.Path == at:
-		return 0
-	case path.Less(x.Path, at):
-		return -1
-	}
-	return 1
-}
+func byPath(x api.Entry, at string) int { return order.Of(x.Path, at, path.Less) }
 
 // together goes through two lists in order at a time; where one has nothing, its element is nought.
 func together[E, P any](a, b []E, order func(a, b E) int, pair func(a, b E) P) []P {

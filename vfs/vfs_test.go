@@ -115,6 +115,18 @@ func TestCalls(t *testing.T) {
 	}
 }
 
+// P13.2: a File does not come to the place of a Dir, though nothing is under it; a Dir comes to that of a File by Swap alone.
+func TestKinds(t *testing.T) {
+	f := vfs.New()
+	f.Mkdir("d", 0)
+	f.Write("f", 0, nil)
+	for i, x := range []struct{ got, want api.Errno }{{f.Write("d", 0, nil), api.ErrKind}, {f.Mkdir("f", 0), api.ErrExists}, {f.Swap("d", file(0), 1), api.OK}, {f.Swap("f", dir, 2), api.OK}, {f.Write("d", 0, nil), api.OK}} {
+		if x.got != x.want {
+			t.Error(i, x.got)
+		}
+	}
+}
+
 // P13.2, P13.4: a tree of 200 has no room.
 func TestFull(t *testing.T) {
 	f := vfs.New()

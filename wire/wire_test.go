@@ -75,6 +75,7 @@ func TestWriterErrors(t *testing.T) {
 		{func(w *wire.Writer) { w.Raw(make([]byte, room-6)); w.Num(1) }, api.OK},
 		{func(w *wire.Writer) { w.Raw(make([]byte, room-6)); w.Num(255); w.Raw(nil) }, api.ErrLong},
 		{func(w *wire.Writer) { w.Num(-1); w.Raw(make([]byte, room)) }, api.ErrRange},
+		{func(w *wire.Writer) { w.Num(-1); w.Text(strings.Repeat("a", room)) }, api.ErrRange},
 		{func(w *wire.Writer) { w.Raw(make([]byte, room)); w.Num(-1) }, api.ErrLong},
 		{func(w *wire.Writer) { w.Num(3); w.Num(-1); w.Num(4); w.Text("x"); w.Raw(nil) }, api.ErrRange},
 	} {
@@ -172,6 +173,9 @@ func TestFaults(t *testing.T) {
 		{[]byte{1, 2, 97}, raw(9), api.ErrBytes, 3},
 		{[]byte{1, 2, 97}, raw(1), api.ErrLong, 0},
 		{[]byte{0}, raw(-1), api.ErrLong, 0},
+		{nil, raw(-1), api.ErrBytes, 0},
+		{[]byte{9}, text(-1), api.ErrArg, 0},
+		{[]byte{1, 0}, raw(-1), api.ErrArg, 0},
 		{[]byte{0}, text(math.MinInt), api.ErrLong, 0},
 		{[]byte{8, 63, 255, 255, 255, 255, 255, 255, 255}, raw(greatest), api.ErrBytes, 9},
 	} {
@@ -228,6 +232,9 @@ func TestReaderIsNew(t *testing.T) {
 	r := wire.Open(in)
 	in[2] = 99
 	a := r.Raw(2)
+	if !bytes.Equal(a, []byte{5, 6}) {
+		t.Error(a)
+	}
 	_ = append(a, 9, 9, 9)
 	a[0] = 9
 	if b := r.Raw(1); !bytes.Equal(b, []byte{7}) || a[1] != 6 || in[4] != 1 {
