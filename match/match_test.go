@@ -111,6 +111,8 @@ func TestBetween(t *testing.T) {
 		{n, born(t, 2, api.KindGateway), nil, api.ErrArg},
 		{api.Node{}, n, nil, api.ErrArg},
 		{n, api.Node{}, nil, api.ErrArg},
+		{api.Node{Number: 2, Kind: api.KindLaptop, Epoch: -1}, n, nil, api.ErrArg},
+		{n, api.Node{Number: 2, Kind: api.KindLaptop, Epoch: -1}, nil, api.ErrArg},
 		{n, with(t, n, other(x), other(y)), []api.Move{{Kind: api.MoveLearn, Node: 2, Dot: of(5, 1)}, {Kind: api.MoveLearn, Node: 2, Dot: of(4, 1)}}, api.OK},
 		{with(t, n, other(x), other(y)), with(t, n, other(over), other(y)), []api.Move{{Kind: api.MoveLearn, Node: 2, Dot: of(4, 2)}}, api.OK},
 		{with(t, n, other(x)), n, nil, api.OK},
@@ -131,6 +133,24 @@ func TestBetween(t *testing.T) {
 		if got, err := match.Between(c.was, c.now); err != c.err || !sameMoves(got, c.want) {
 			t.Error(i, got, err)
 		}
+	}
+}
+
+// What is told is new memory.
+func TestMemory(t *testing.T) {
+	m := with(t, born(t, 2, api.KindLaptop), own(a))
+	was := with(t, m, api.Rec{Kind: api.RecEpoch, N: 1})
+	moves, _ := match.Between(born(t, 2, api.KindLaptop), m)
+	moves[0].Effect.Bytes[0] = 1
+	s := followed(t, enrolled(t, match.New(), api.KindLaptop), 1, m)
+	x, y, z := followed(t, s, 0, m), enrolled(t, s, api.KindLaptop), followed(t, s, 0, was)
+	for _, o := range []api.Shadow{x, y, z} {
+		o.Model.Events[0].Effect.Bytes[0], o.Model.Nodes[1].Known[0].To = 1, 9
+		o.Nodes[1].Store[0].Effect.Bytes[0], o.Nodes[0].Number = 1, 9
+		_ = append(o.Nodes, api.Node{Number: 7})
+	}
+	if match.Check(s) != api.OK || !effect.Same(m.Store[0].Effect, file(7)) || !effect.Same(was.Store[0].Effect, file(7)) || !effect.Same(a.Effect, file(7)) {
+		t.Error(s, m)
 	}
 }
 

@@ -228,7 +228,7 @@ func same(f, g *fleet.Fleet) bool {
 // P31.2: a fair round is what the chapter says, step by step, whatever state the fleet is in.
 func TestRound(t *testing.T) {
 	rnd := rand.New(rand.NewSource(4))
-	rounds := 0
+	broken := 0
 	for range 40 {
 		f, g := begin(t, 1000), begin(t, 1000)
 		for range 6 {
@@ -239,18 +239,34 @@ func TestRound(t *testing.T) {
 				}
 				return a
 			})
-			if err := script.Round(f); err != api.OK {
-				t.Fatal(err)
+			for range rnd.Intn(4) { // disks go out while the round goes on, or while a node is down
+				s := api.Step{Kind: api.StepFuse, N: 1 + rnd.Intn(len(f.Members())), At: rnd.Intn(8)}
+				if rnd.Intn(4) == 0 {
+					f.Do(api.Step{Kind: api.StepCrash, N: s.N})
+					g.Do(api.Step{Kind: api.StepCrash, N: s.N})
+				}
+				f.Do(s)
+				g.Do(s)
 			}
-			byHand(g, g.Do)
-			if !same(f, g) {
-				t.Fatal("otherwise than by hand")
+			for range 2 {
+				for n := range f.Members() {
+					if f.Up(n+1) && f.Do(api.Step{Kind: api.StepTick, N: n + 1}) == api.ErrBroken {
+						broken++
+					}
+					g.Do(api.Step{Kind: api.StepTick, N: n + 1})
+				}
+				if err := script.Round(f); err != api.OK {
+					t.Fatal(err)
+				}
+				byHand(g, g.Do)
+				if !same(f, g) {
+					t.Fatal("otherwise than by hand")
+				}
 			}
-			rounds++
 		}
 	}
-	if rounds != 240 {
-		t.Error(rounds)
+	if broken < 20 {
+		t.Error("too few:", broken)
 	}
 }
 
@@ -266,7 +282,7 @@ func TestSettled(t *testing.T) {
 	}
 	calmed := func() *fleet.Fleet {
 		f := begin(t, 1000)
-		do(f, api.Step{Kind: api.StepWrite, N: 3, Path: "f", Effect: file(7)})
+		do(f, api.Step{Kind: api.StepWrite, N: 3, Path: "f", Effect: file(7)}, api.Step{Kind: api.StepWrite, N: 3, Path: "o"})
 		settle(t, f)
 		return f
 	}
@@ -281,8 +297,12 @@ func TestSettled(t *testing.T) {
 		{[]api.Step{{Kind: api.StepCrash, N: 3}, {Kind: api.StepKill, N: 3}}, true},                                       // a dead one counts no more
 		{[]api.Step{{Kind: api.StepCrash, N: 6}, {Kind: api.StepKill, N: 5}}, true},                                       // nor does one that is cut off
 		{[]api.Step{{Kind: api.StepCrash, N: 2}, {Kind: api.StepRestart, N: 2}, {Kind: api.StepOut, N: 2, At: 1}}, false}, // a frame in the air
-		{[]api.Step{write}, false},                                                                                        // a user's change
-		{[]api.Step{write, {Kind: api.StepScan, N: 3}}, false},                                                            // that others do not have
+		{[]api.Step{{Kind: api.StepRename, N: 3, Path: "f", To: "e"}}, false},
+		{[]api.Step{{Kind: api.StepChmod, N: 3, Path: "f", Effect: api.Effect{Mode: 1}}}, false},
+		{[]api.Step{{Kind: api.StepRemove, N: 3, Path: "f"}}, false},
+		{[]api.Step{{Kind: api.StepRemove, N: 3, Path: "o"}, {Kind: api.StepMkdir, N: 3, Path: "o"}}, false},
+		{[]api.Step{write}, false},                             // a user's change
+		{[]api.Step{write, {Kind: api.StepScan, N: 3}}, false}, // that others do not have
 		{[]api.Step{{Kind: api.StepMkdir, N: 3, Path: "d"}, {Kind: api.StepScan, N: 3}, {Kind: api.StepKill, N: 3}}, true},
 		{[]api.Step{{Kind: api.StepResolve, N: 1, Path: "g", Effect: dir}}, false}, // that just the root has
 	} {
@@ -292,6 +312,14 @@ func TestSettled(t *testing.T) {
 			t.Error(i, script.Settled(f))
 		}
 		settle(t, f)
+	}
+	for _, n := range []int{1, 2} {
+		f := begin(t, 1000)
+		settle(t, f)
+		do(f, api.Step{Kind: api.StepCrash, N: n})
+		if script.Settled(f) {
+			t.Error(n, "is down")
+		}
 	}
 	// what all have, but is not shown, or not reported
 	f := calmed()
