@@ -78,8 +78,8 @@ func Air(l []api.Air) []api.Air {
 	})
 }
 
-// Replica makes a new node of a model.
-func Replica(r api.Replica) api.Replica {
+// replica makes a new node of a model.
+func replica(r api.Replica) api.Replica {
 	r.Known = slices.Clone(r.Known)
 	r.Shown = Showing(r.Shown)
 	return r
@@ -87,7 +87,7 @@ func Replica(r api.Replica) api.Replica {
 
 // Model makes a new model.
 func Model(m api.Model) api.Model {
-	return api.Model{Events: Events(m.Events), Nodes: list(m.Nodes, Replica), Reports: slices.Clone(m.Reports)}
+	return api.Model{Events: Events(m.Events), Nodes: list(m.Nodes, replica), Reports: slices.Clone(m.Reports)}
 }
 
 // Nodes makes a new list of nodes.

@@ -16,6 +16,7 @@ import (
 	"tributary/install"
 	"tributary/journal"
 	"tributary/node"
+	"tributary/past"
 	"tributary/peer"
 	"tributary/store"
 	"tributary/table"
@@ -365,8 +366,8 @@ func TestFullDisk(t *testing.T) {
 				if learned || stored != (len(now.Store) > len(was.Store)) || !slices.Equal(known(a, 2), was.Peers[0].Known) {
 					t.Fatal(room, now)
 				}
-			} else if err != api.OK {
-				t.Fatal(room, err)
+			} else if now := b.Node(); err != api.OK || len(now.Store) != len(was.Store)+1 || past.Count(known(b, 1)) != past.Count(was.Peers[0].Known)+1 {
+				t.Fatal(room, err, now)
 			}
 		}
 		s := b.Node()
