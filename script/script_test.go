@@ -270,6 +270,25 @@ func TestRound(t *testing.T) {
 	}
 }
 
+// P31.2: a round's ticks are enough for what was lost ahead of it to go once more; the fewest that are.
+func TestRoundTicks(t *testing.T) {
+	for ticks := range 3 {
+		f, _ := fleet.New(1000)
+		lost := []api.Step{{Kind: api.StepEnrol, N: api.KindLaptop, At: 1}, {Kind: api.StepOut, N: 1, At: 2}, {Kind: api.StepDeliver}, {Kind: api.StepOut, N: 2, At: 1}, {Kind: api.StepDeliver}, {Kind: api.StepWrite, N: 2, Path: "f"}, {Kind: api.StepScan, N: 2}, {Kind: api.StepOut, N: 2, At: 1}, {Kind: api.StepLose}}
+		for i, err := range script.Run(f, lost) {
+			if err != api.OK {
+				t.Fatal(i, err)
+			}
+		}
+		for range ticks {
+			f.Do(api.Step{Kind: api.StepTick, N: 2})
+		}
+		if err := script.Round(f); err != api.OK || len(f.Node(1).Store) != 1 {
+			t.Error(ticks, err, f.Node(1).Store)
+		}
+	}
+}
+
 // P31.2: what keeps a fleet from being settled.
 func TestSettled(t *testing.T) {
 	do := func(f *fleet.Fleet, l ...api.Step) {
